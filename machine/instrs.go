@@ -2,6 +2,7 @@ package machine
 
 import (
 	"assize/api"
+	"assize/reckon"
 )
 
 // do does an instruction of a piece that is paid for.
@@ -16,7 +17,7 @@ func (c *contract) do(f *frame, i api.Instr) {
 	case api.Store:
 		f.locals[i.A] = f.pop()
 	case api.Flip:
-		f.push(truth(f.pop() == 0))
+		f.push(reckon.Truth(f.pop() == 0))
 	case api.Jump:
 		f.next = i.A
 	case api.Zero:
@@ -33,45 +34,12 @@ func (c *contract) do(f *frame, i api.Instr) {
 		c.reach(f, i)
 	case api.Plus, api.Minus, api.Times, api.Over, api.Rest, api.Same, api.Under, api.Above:
 		upper, lower := f.pop(), f.pop()
-		n, may := worth(i.Op, lower, upper)
+		n, may := reckon.Two(i.Op, lower, upper)
 		c.must(may)
 		f.push(n)
 	default:
 		c.deal(f, i)
 	}
-}
-
-func truth(is bool) int {
-	if is {
-		return 1
-	}
-	return 0
-}
-
-// worth is what an operator makes of two numbers; false, where it fails.
-func worth(op, lower, upper int) (int, bool) {
-	switch op {
-	case api.Plus:
-		return lower + upper, numbers(lower + upper)
-	case api.Minus:
-		return lower - upper, numbers(lower - upper)
-	case api.Times:
-		// The product itself may be too great for an int.
-		return lower * upper, lower == 0 || upper <= api.MaxNumber/lower
-	case api.Same:
-		return truth(lower == upper), true
-	case api.Under:
-		return truth(lower < upper), true
-	case api.Above:
-		return truth(lower > upper), true
-	}
-	if upper == 0 {
-		return 0, false
-	}
-	if op == api.Over {
-		return lower / upper, true
-	}
-	return lower % upper, true
 }
 
 // deal does an instruction that deals with the job, or with the state.
@@ -125,5 +93,5 @@ func (c *contract) reach(f *frame, i api.Instr) {
 	}
 	c.left -= o.Used
 	c.note(o.Notes...)
-	f.push(o.Value, truth(o.Kind == api.Done))
+	f.push(o.Value, reckon.Truth(o.Kind == api.Done))
 }
